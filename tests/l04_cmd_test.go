@@ -8,6 +8,7 @@ import (
 	"slices"
 	"strings"
 	"testing"
+	"unsafe"
 
 	"loop.example/g00954/impl"
 )
@@ -768,6 +769,30 @@ func TestReadCmdSharesNoMemory(t *testing.T) {
 		third, ok := impl.ReadCmd(s)
 		if !ok || !equalCmds(second, c) || !equalCmds(third, c) || s != string(bytes) {
 			t.Errorf("%+v: %+v and %+v after another result was changed", c, second, third)
+		}
+	}
+}
+
+// shareBytes reports whether a byte of a is the same one in memory as one of b.
+func shareBytes(a string, b string) bool {
+	if a == "" || b == "" {
+		return false
+	}
+	x, y := uintptr(unsafe.Pointer(unsafe.StringData(a))), uintptr(unsafe.Pointer(unsafe.StringData(b)))
+	return x < y+uintptr(len(b)) && y < x+uintptr(len(a))
+}
+
+func TestReadCmdKeepsNoPieceOfItsArgument(t *testing.T) {
+	for _, c := range validCmds() {
+		s := impl.ShowCmd(c)
+		first, _ := impl.ReadCmd(s)
+		second, _ := impl.ReadCmd(s)
+		for i, a := range append([]string{first.Set, first.Name, first.Tag}, first.Chunks...) {
+			for j, b := range append([]string{s, second.Set, second.Name, second.Tag}, second.Chunks...) {
+				if shareBytes(a, b) {
+					t.Errorf("%+v: text %d shares memory with %d", c, i, j)
+				}
+			}
 		}
 	}
 }
