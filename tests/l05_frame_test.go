@@ -40,6 +40,10 @@ func wantUnframe(s string) ([]string, int) {
 			if start+size > len(s) {
 				break
 			}
+			// The low bits of the length spare most of the checksums.
+			if int(s[at+4])%128 != size%128 {
+				continue
+			}
 			content := s[start : start+size]
 			if s[at:start+size] == wantFrame(content) {
 				contents = append(contents, content)
