@@ -37,7 +37,10 @@ func otherIds() []impl.Id {
 
 // idNumber is the place of a valid Id among all of them, from 0, or -1.
 func idNumber(id impl.Id) int {
-	return slices.Index(allIds(), id)
+	if id.Rep < 0 || id.Rep > 2 || id.Slot < 1 || id.Slot > 6 {
+		return -1
+	}
+	return id.Rep*6 + id.Slot - 1
 }
 
 func wantIdsOk(l []impl.Id) bool {
@@ -555,14 +558,17 @@ func TestInstsOkSeq(t *testing.T) {
 	}
 }
 
-func TestInstsOkDeps(t *testing.T) {
+// depsCase is a list of dependencies of the Id {1, 2}, and whether it is valid.
+type depsCase struct {
+	what string
+	deps []impl.Id
+	want bool
+}
+
+func depsCases() []depsCase {
 	own := idOf(1, 2)
 	others := wantOfAll(func(id impl.Id) bool { return id != own })
-	for _, c := range []struct {
-		what string
-		deps []impl.Id
-		want bool
-	}{
+	return []depsCase{
 		{"nil", nil, true},
 		{"empty", []impl.Id{}, true},
 		{"one", []impl.Id{idOf(2, 6)}, true},
@@ -574,12 +580,19 @@ func TestInstsOkDeps(t *testing.T) {
 		{"an invalid Slot", []impl.Id{idOf(0, 7)}, false},
 		{"an invalid Rep", []impl.Id{idOf(0, 1), idOf(3, 1)}, false},
 		{"the zero Id", []impl.Id{{}}, false},
-		{"its own Id", []impl.Id{own}, false},
-		{"its own Id first", []impl.Id{own, idOf(1, 3)}, false},
-		{"its own Id last", []impl.Id{idOf(0, 1), idOf(1, 1), own}, false},
-		{"its own Id among others", []impl.Id{idOf(0, 1), own, idOf(2, 1)}, false},
-		{"all with its own", allIds(), false},
-	} {
+		{"great numbers", []impl.Id{idOf(1, 1), idOf(math.MaxInt, math.MinInt)}, false},
+		{"the own Id", []impl.Id{own}, false},
+		{"the own Id first", []impl.Id{own, idOf(1, 3)}, false},
+		{"the own Id last", []impl.Id{idOf(0, 1), idOf(1, 1), own}, false},
+		{"the own Id among others", []impl.Id{idOf(0, 1), own, idOf(2, 1)}, false},
+		{"all", allIds(), false},
+		{"a long list", slices.Repeat(others, 5000), false},
+	}
+}
+
+func TestInstsOkDeps(t *testing.T) {
+	own := idOf(1, 2)
+	for _, c := range depsCases() {
 		eachStatus(func(x impl.Inst) {
 			x.Deps = c.deps
 			checkInst(t, c.what, x, c.want)
