@@ -314,20 +314,26 @@ func TestGraphOfAnInvalidList(t *testing.T) {
 	// All are Ready as long as the list is valid; the one that is spoilt is far from most.
 	valid := linked([]int{1}, []int{3, 4}, []int{4, 3}, []int{7, 4}, []int{12}, []int{16, 12}, []int{17})
 	hasParts(t, "valid", valid, []int{1}, []int{3, 4}, []int{7}, []int{12}, []int{16}, []int{17})
+	spoiltLists(valid, func(what string, l []impl.Inst) { nothingOf(t, what, l) })
+}
+
+// spoiltLists are this list, which is valid, with one of its instances spoilt, in
+// another order, or with one twice.
+func spoiltLists(valid []impl.Inst, visit func(what string, l []impl.Inst)) {
 	for at := range valid {
 		for _, change := range spoiling() {
 			l := freshInsts(valid)
 			change(&l[at])
-			nothingOf(t, "one is invalid", l)
+			visit("one is invalid", l)
 			l[at].Status = impl.EsPre
-			nothingOf(t, "one is invalid and EsPre", l)
+			visit("one is invalid and EsPre", l)
 		}
 		for other := range valid[:at] {
 			l := freshInsts(valid)
 			l[at], l[other] = l[other], l[at]
-			nothingOf(t, "not in order", l)
+			visit("not in order", l)
 			l[at] = freshInst(l[other])
-			nothingOf(t, "twice", l)
+			visit("twice", l)
 		}
 	}
 }
@@ -377,33 +383,35 @@ func TestGraphOfALongList(t *testing.T) {
 	nothingOf(t, "many Deps", deps)
 }
 
-func TestGraphOfOneInstance(t *testing.T) {
+// eachAlone are instances with each Id and in each Status, without Deps and, where
+// the Status allows it, with all that there can be.
+func eachAlone(visit func(number int, x impl.Inst)) {
 	for number, id := range allIds() {
-		deps := slices.DeleteFunc(allIds(), func(other impl.Id) bool { return other == id })
-		for status := range 4 {
+		visit(number, unsetInst(id, 600))
+		for status := impl.EsPre; status <= impl.EsCom; status++ {
 			x := impl.Inst{Id: id, Bal: 600, VBal: 7, Status: status, Cmd: listOf(), Seq: 60, Same: true}
-			if status == impl.EsNone {
-				x = unsetInst(id, 600)
-			}
-			l := []impl.Inst{x}
-			reaches(t, "one", l, number)
-			isReady(t, "one", l, number, status == 3)
-			if status != 3 {
-				hasParts(t, "one that is not EsCom", l)
-			} else {
-				hasParts(t, "one that is EsCom", l, []int{number})
-			}
-			if status == impl.EsNone {
-				continue
-			}
-			l[0].Deps = deps
-			isReady(t, "one with Deps", l, number, false)
-			hasParts(t, "one with Deps", l)
-			if got := impl.Reach(l, id); status == 3 && !slices.Equal(got, deps) || status != 3 && len(got) != 0 {
-				t.Errorf("Reach of %+v is %v", l, got)
-			}
+			visit(number, x)
+			x.Deps = wantOfAll(func(other impl.Id) bool { return other != id })
+			visit(number, x)
 		}
 	}
+}
+
+func TestGraphOfOneInstance(t *testing.T) {
+	eachAlone(func(number int, x impl.Inst) {
+		l, parts, reached := []impl.Inst{x}, [][]int{}, []impl.Id{}
+		if x.Status == impl.EsCom {
+			reached = x.Deps
+		}
+		if x.Status == impl.EsCom && len(x.Deps) == 0 {
+			parts = [][]int{{number}}
+		}
+		hasParts(t, "one", l, parts...)
+		isReady(t, "one", l, number, len(parts) == 1)
+		if got := impl.Reach(l, x.Id); !slices.Equal(got, reached) {
+			t.Errorf("Reach of %+v is %v", l, got)
+		}
+	})
 }
 
 // The chapter looks at Id, Status, Seq and Deps only.
@@ -853,24 +861,31 @@ func TestGreatestLists(t *testing.T) {
 	}
 }
 
-// Every way in which three instances depend on each other and on one that is
-// absent, with each of them absent, EsPre or EsCom.
-func TestEveryGraphOfThree(t *testing.T) {
+// linksOf lets the first count of the numbers depend on all of them as code says,
+// a bit for each.
+func linksOf(numbers []int, count int, code int) []impl.Inst {
+	var rows [][]int
+	for i := range count {
+		row := []int{numbers[i]}
+		for _, dep := range slices.Delete(slices.Clone(numbers), i, i+1) {
+			if code&1 == 1 {
+				row = append(row, dep)
+			}
+			code >>= 1
+		}
+		rows = append(rows, row)
+	}
+	return linked(rows...)
+}
+
+// everyGraphOfThree are all ways in which three instances depend on each other and
+// on one that is absent, with each of them absent, EsPre or EsCom.
+func everyGraphOfThree(visit func(l []impl.Inst)) {
 	numbers := []int{2, 6, 15, 11} // 11 is the one that is absent
 	seqs := [][]int{{1, 1, 1}, {3, 2, 1}}
 	for code := range 1 << 9 {
-		var rows [][]int
-		for i := range 3 {
-			row := []int{numbers[i]}
-			for k, dep := range slices.Delete(slices.Clone(numbers), i, i+1) {
-				if code>>(3*i+k)&1 == 1 {
-					row = append(row, dep)
-				}
-			}
-			rows = append(rows, row)
-		}
 		for state := range 27 {
-			l := withSeqs(linked(rows...), seqs[state%2]...)
+			l := withSeqs(linksOf(numbers, 3, code), seqs[state%2]...)
 			for i, digit := range []int{state % 3, state / 3 % 3, state / 9} {
 				if digit == 1 {
 					l = withStatus(l, numbers[i], impl.EsPre)
@@ -878,25 +893,18 @@ func TestEveryGraphOfThree(t *testing.T) {
 					l = without(l, numbers[i])
 				}
 			}
-			checkGraph(t, "three", l)
+			visit(l)
 		}
 	}
 }
 
+func TestEveryGraphOfThree(t *testing.T) {
+	everyGraphOfThree(func(l []impl.Inst) { checkGraph(t, "three", l) })
+}
+
 func TestEveryGraphOfFour(t *testing.T) {
-	numbers := []int{1, 5, 9, 13}
 	for code := range 1 << 12 {
-		var rows [][]int
-		for i := range 4 {
-			row := []int{numbers[i]}
-			for k, dep := range slices.Delete(slices.Clone(numbers), i, i+1) {
-				if code>>(3*i+k)&1 == 1 {
-					row = append(row, dep)
-				}
-			}
-			rows = append(rows, row)
-		}
-		checkGraph(t, "four", withSeqs(linked(rows...), code%3, code%5, code%2, code%4))
+		checkGraph(t, "four", withSeqs(linksOf([]int{1, 5, 9, 13}, 4, code), code%3, code%5, code%2, code%4))
 	}
 }
 
@@ -964,36 +972,59 @@ func TestAnyGraph(t *testing.T) {
 			checkGraph(t, "spoilt", l)
 		}
 	}
-	for _, what := range []string{
-		"a smaller Id later", "several components", "no component, but EsCom", "all are Ready", "some are Ready",
-		"a cycle", "several cycles", "a cycle by Seq", "a great cycle", "a cycle that depends on others",
-	} {
-		if seen[what] < 100 {
+	haveSeen(t, seen, 100, "a smaller Id later", "several components", "no component, but EsCom", "all are Ready", "some are Ready",
+		"a cycle", "several cycles", "a cycle by Seq", "a great cycle", "a cycle that depends on others")
+}
+
+// listsOfNodes are the lists of the nodes of so many long plays: here cycles come
+// about as they do when several nodes propose at once.
+func listsOfNodes(t *testing.T, plays int, seed int) [][]impl.Inst {
+	t.Helper()
+	var lists [][]impl.Inst
+	for play := range plays {
+		r := lcg(play + seed)
+		x := newThree(play%4 == 3)
+		for range 250 {
+			x.act(t, &r)
+		}
+		for _, n := range x.nodes {
+			lists = append(lists, n.Insts)
+		}
+	}
+	return lists
+}
+
+// haveSeen tells that each of these occurs at least so often.
+func haveSeen(t *testing.T, seen map[string]int, least int, wanted ...string) {
+	t.Helper()
+	for _, what := range wanted {
+		if seen[what] < least {
 			t.Errorf("%q occurs in %d lists", what, seen[what])
 		}
 	}
 }
 
-// The lists of the nodes of long plays: here cycles come about as they do when
-// several nodes propose at once.
 func TestGraphsOfNodes(t *testing.T) {
 	seen := map[string]int{}
-	for seed := range 60 {
-		r := lcg(seed + 7000)
-		x := newThree(seed%4 == 3)
-		for range 250 {
-			x.act(t, &r)
+	for _, l := range listsOfNodes(t, 60, 7000) {
+		checkGraph(t, "a node", l)
+		graphKinds(seen, l)
+	}
+	haveSeen(t, seen, 1, "several components", "some are Ready", "a cycle", "a smaller Id later")
+}
+
+// deliver gives each of these messages once, whatever comes of it, also those that
+// are sent meanwhile.
+func deliver(x impl.ENet, wanted func(impl.EMsg) bool) impl.ENet {
+	for at := 0; at < len(x.Pool); at++ {
+		if !wanted(x.Pool[at]) {
+			continue
 		}
-		for _, n := range x.nodes {
-			checkGraph(t, "a node", n.Insts)
-			graphKinds(seen, n.Insts)
+		if next, done := impl.ENetDo(x, giveAct(at)); done {
+			x = next
 		}
 	}
-	for _, what := range []string{"several components", "some are Ready", "a cycle", "a smaller Id later"} {
-		if seen[what] == 0 {
-			t.Errorf("%q does not occur", what)
-		}
-	}
+	return x
 }
 
 // Two nodes propose at once, and each command depends on the other.
@@ -1002,12 +1033,7 @@ func TestGraphOfCommandsThatDependOnEachOther(t *testing.T) {
 	for _, a := range []impl.EAct{offerAct(0, readOf("a")), offerAct(1, commitOf("a")), offerAct(2, readOf("b"))} {
 		x = mustDo(t, "offer", x, a)
 	}
-	for at := 0; at < len(x.Pool); at++ {
-		if next, done := impl.ENetDo(x, giveAct(at)); done {
-			x = next
-		}
-	}
-	for _, n := range x.Nodes {
+	for _, n := range deliver(x, func(impl.EMsg) bool { return true }).Nodes {
 		hasParts(t, "a node", n.Insts, []int{0, 6}, []int{12})
 		reaches(t, "a node", n.Insts, 0, 0, 6)
 	}
@@ -1050,15 +1076,35 @@ func (a graphResults) lists() [][]impl.Id {
 	return slices.Concat(a.reach, a.parts, [][]impl.Id{a.order})
 }
 
-func TestGraphFunctionsChangeNoArgument(t *testing.T) {
-	for _, l := range graphLists() {
+// leavesAlone tells that the calls change no list, not even where it has room.
+func leavesAlone(t *testing.T, lists [][]impl.Inst, calls func([]impl.Inst)) {
+	t.Helper()
+	for _, l := range lists {
 		n := roomyNode(impl.ENode{Insts: l})
 		want := wholeNode(n)
-		graphCalls(n.Insts)
+		calls(n.Insts)
 		if got := wholeNode(n); !reflect.DeepEqual(got, want) {
 			t.Errorf("%+v has become %+v", want.Insts, got.Insts)
 		}
 	}
+}
+
+// keepsNoState tells that the calls have the same results later, in another order.
+func keepsNoState[R any](t *testing.T, lists [][]impl.Inst, calls func([]impl.Inst) R, equal func(R, R) bool) {
+	t.Helper()
+	var first []R
+	for _, l := range lists {
+		first = append(first, calls(l))
+	}
+	for i, l := range slices.Backward(lists) {
+		if again := calls(l); !equal(again, first[i]) {
+			t.Errorf("%+v has other results later: %+v, %+v", l, again, first[i])
+		}
+	}
+}
+
+func TestGraphFunctionsChangeNoArgument(t *testing.T) {
+	leavesAlone(t, graphLists(), func(l []impl.Inst) { graphCalls(l) })
 }
 
 func TestGraphFunctionsShareNoMemory(t *testing.T) {
@@ -1101,14 +1147,5 @@ func TestGraphFunctionsSeparateWhatAnArgumentShares(t *testing.T) {
 }
 
 func TestGraphFunctionsKeepNoState(t *testing.T) {
-	lists := graphLists()
-	var first []graphResults
-	for _, l := range lists {
-		first = append(first, graphCalls(l))
-	}
-	for i, l := range slices.Backward(lists) {
-		if again := graphCalls(l); !again.equals(first[i]) {
-			t.Errorf("%+v has other results later: %+v, %+v", l, again, first[i])
-		}
-	}
+	keepsNoState(t, graphLists(), graphCalls, graphResults.equals)
 }
